@@ -1,6 +1,9 @@
 package tests
 
-import "slices"
+import (
+	"slices"
+	"testing"
+)
 
 // wordsOver returns all strings of at most n bytes, each of them a byte of
 // letters.
@@ -76,4 +79,95 @@ func circling(n int, step int) []int {
 		list[i] = (i + step) % n
 	}
 	return list
+}
+
+// cloneAll copies lists one by one.
+func cloneAll(lists [][]int) [][]int {
+	var copies [][]int
+	for _, l := range lists {
+		copies = append(copies, slices.Clone(l))
+	}
+	return copies
+}
+
+func equalLists(a [][]int, b [][]int) bool { return slices.EqualFunc(a, b, slices.Equal) }
+
+// spare is how many elements withRoom puts behind a list.
+const spare = 3
+
+// withRoom returns a list with the same elements and spare more behind it.
+func withRoom(list []int) []int {
+	return append(slices.Clone(list), -7, -8, -9)[:len(list)]
+}
+
+func withRoomAll(lists [][]int) [][]int {
+	var roomy [][]int
+	for _, l := range lists {
+		roomy = append(roomy, withRoom(l))
+	}
+	return roomy
+}
+
+// layerCalls makes the calls of a layer, under their names, with lists as
+// their arguments; each call gives the slices of its result.
+type layerCalls func(lists [][]int) map[string]func() [][]int
+
+// checkMemory checks the rules of memory for the calls with these lists.
+func checkMemory(t *testing.T, lists [][]int, calls layerCalls) {
+	t.Helper()
+	for name := range calls(lists) {
+		checkArgumentsStay(t, name, lists, calls)
+		checkResultsAreIndependent(t, name, lists, calls)
+		checkResultOutlivesArguments(t, name, lists, calls)
+	}
+}
+
+func checkArgumentsStay(t *testing.T, name string, lists [][]int, calls layerCalls) {
+	t.Helper()
+	arguments := withRoomAll(lists)
+	var whole [][]int
+	for _, l := range arguments {
+		whole = append(whole, l[:len(l)+spare])
+	}
+	before := cloneAll(whole)
+	for _, l := range calls(arguments)[name]() {
+		spoil(l, -1)
+	}
+	if !equalLists(whole, before) {
+		t.Errorf("%s or its changed result changed the arguments %v", name, lists)
+	}
+}
+
+func checkResultsAreIndependent(t *testing.T, name string, lists [][]int, calls layerCalls) {
+	t.Helper()
+	call := calls(cloneAll(lists))[name]
+	first, second := call(), call()
+	want := cloneAll(second)
+	for i := range first {
+		rest := cloneAll(first[i+1:])
+		spoil(first[i], -1)
+		if !equalLists(first[i+1:], rest) {
+			t.Errorf("%s of %v: two lists of a result share memory", name, lists)
+		}
+	}
+	spoil(first, []int{-1})
+	if !equalLists(second, want) {
+		t.Errorf("%s of %v: two results share memory", name, lists)
+	}
+	if third := call(); !equalLists(third, want) {
+		t.Errorf("%s of %v: a changed result comes back: %v", name, lists, third)
+	}
+}
+
+func checkResultOutlivesArguments(t *testing.T, name string, lists [][]int, calls layerCalls) {
+	t.Helper()
+	arguments := withRoomAll(lists)
+	result := calls(arguments)[name]()
+	want := cloneAll(result)
+	for _, l := range arguments {
+		spoil(l, -1)
+	}
+	if !equalLists(result, want) {
+		t.Errorf("%s of %v: the result changed with its arguments", name, lists)
+	}
 }

@@ -506,9 +506,9 @@ func TestSameList(t *testing.T) {
 	}
 }
 
-// permCalls returns the calls of the layer with the lists p and q; each gives
-// the slices of its result.
-func permCalls(p []int, q []int) map[string]func() [][]int {
+// permCalls makes the calls of the layer with the two lists.
+func permCalls(lists [][]int) map[string]func() [][]int {
+	p, q := lists[0], lists[1]
 	one := func(list []int) [][]int { return [][]int{list} }
 	return map[string]func() [][]int{
 		"PermOk":       func() [][]int { impl.PermOk(p); return nil },
@@ -522,22 +522,8 @@ func permCalls(p []int, q []int) map[string]func() [][]int {
 	}
 }
 
-// withRoom returns a list with the same elements and three more behind it.
-func withRoom(list []int) []int {
-	return append(slices.Clone(list), -7, -8, -9)[:len(list)]
-}
-
-// cloneAll copies lists one by one.
-func cloneAll(lists [][]int) [][]int {
-	var copies [][]int
-	for _, l := range lists {
-		copies = append(copies, slices.Clone(l))
-	}
-	return copies
-}
-
-func memoryPairs() [][2][]int {
-	return [][2][]int{
+func TestPermsKeepTheRulesOfMemory(t *testing.T) {
+	for _, pair := range [][][]int{
 		{{}, {}},
 		{{0}, {0}},
 		{{0, 1, 2}, {0, 1, 2}},
@@ -548,60 +534,8 @@ func memoryPairs() [][2][]int {
 		{{1, 1, 0}, {2, 1, 0}},
 		{{0, 2, 1}, {0, 1, 5}},
 		{counting(25), circling(25, 1)},
-	}
-}
-
-func TestPermArgumentsStay(t *testing.T) {
-	for _, pair := range memoryPairs() {
-		p, q := withRoom(pair[0]), withRoom(pair[1])
-		wantP, wantQ := slices.Clone(p[:len(p)+3]), slices.Clone(q[:len(q)+3])
-		for name, call := range permCalls(p, q) {
-			for _, list := range call() {
-				spoil(list, -1)
-			}
-			if !slices.Equal(p[:len(p)+3], wantP) || !slices.Equal(q[:len(q)+3], wantQ) {
-				t.Fatalf("%s or its changed result changed the arguments %v and %v", name, wantP, wantQ)
-			}
-		}
-	}
-}
-
-func TestPermResultsAreIndependent(t *testing.T) {
-	for _, pair := range memoryPairs() {
-		p, q := slices.Clone(pair[0]), slices.Clone(pair[1])
-		for name, call := range permCalls(p, q) {
-			first, second := call(), call()
-			want := cloneAll(second)
-			for i := range first {
-				rest := cloneAll(first[i+1:])
-				spoil(first[i], -1)
-				if !slices.EqualFunc(first[i+1:], rest, slices.Equal) {
-					t.Errorf("%s of %v and %v: two lists of a result share memory", name, p, q)
-				}
-			}
-			spoil(first, []int{-1})
-			if !slices.EqualFunc(second, want, slices.Equal) {
-				t.Errorf("%s of %v and %v: two results share memory", name, p, q)
-			}
-			if third := call(); !slices.EqualFunc(third, want, slices.Equal) {
-				t.Errorf("%s of %v and %v: a changed result comes back: %v", name, p, q, third)
-			}
-		}
-	}
-}
-
-func TestPermResultsOutliveTheirArguments(t *testing.T) {
-	for _, pair := range memoryPairs() {
-		for name := range permCalls(nil, nil) {
-			p, q := slices.Clone(pair[0]), slices.Clone(pair[1])
-			result := permCalls(p, q)[name]()
-			want := cloneAll(result)
-			spoil(p, -1)
-			spoil(q, -1)
-			if !slices.EqualFunc(result, want, slices.Equal) {
-				t.Errorf("%s of %v and %v: the result changed with its arguments", name, pair[0], pair[1])
-			}
-		}
+	} {
+		checkMemory(t, pair, permCalls)
 	}
 }
 

@@ -138,6 +138,22 @@ func invalidSurfaces() []impl.Surface {
 	return list
 }
 
+// shortSurfaces returns the surfaces of all lists of at most 3 numbers that are
+// or are almost numbers of squares; most of them are not valid.
+func shortSurfaces() []impl.Surface {
+	var lists [][]int
+	for n := range 4 {
+		lists = append(lists, listsOver(-1, n, n)...)
+	}
+	var surfaces []impl.Surface
+	for _, right := range lists {
+		for _, up := range lists {
+			surfaces = append(surfaces, surfaceWith(right, up))
+		}
+	}
+	return surfaces
+}
+
 // someNames returns permutations of n elements: all if they are few.
 func someNames(n int) [][]int {
 	if n <= 4 {
@@ -207,24 +223,17 @@ func TestSurfaceOk(t *testing.T) {
 }
 
 func TestSurfaceOkAndCountSquaresOfAllShortLists(t *testing.T) {
-	var lists [][]int
-	for n := range 4 {
-		lists = append(lists, listsOver(-1, n, n)...)
-	}
-	for _, right := range lists {
-		for _, up := range lists {
-			s := surfaceWith(right, up)
-			ok := isSurfaceSlowly(s)
-			if got := impl.SurfaceOk(s); got != ok {
-				t.Errorf("SurfaceOk(%v) = %t", s, got)
-			}
-			want := 0
-			if ok {
-				want = len(right)
-			}
-			if got := impl.CountSquares(s); got != want {
-				t.Errorf("CountSquares(%v) = %d, want %d", s, got, want)
-			}
+	for _, s := range shortSurfaces() {
+		ok := isSurfaceSlowly(s)
+		if got := impl.SurfaceOk(s); got != ok {
+			t.Errorf("SurfaceOk(%v) = %t", s, got)
+		}
+		want := 0
+		if ok {
+			want = len(s.Right)
+		}
+		if got := impl.CountSquares(s); got != want {
+			t.Errorf("CountSquares(%v) = %d, want %d", s, got, want)
 		}
 	}
 }
@@ -835,9 +844,10 @@ func TestSurfacesDoNotDependOnTheOrderOfMaps(t *testing.T) {
 	}
 }
 
-// surfaceCalls returns the calls of the layer with the surfaces a and b; each
-// gives the slices of its result.
-func surfaceCalls(a impl.Surface, b impl.Surface, names []int) map[string]func() [][]int {
+// surfaceCalls makes the calls of the layer with two surfaces, as Right and Up
+// of each, and names.
+func surfaceCalls(lists [][]int) map[string]func() [][]int {
+	a, b, names := surfaceWith(lists[0], lists[1]), surfaceWith(lists[2], lists[3]), lists[4]
 	both := func(s impl.Surface, _ bool) [][]int { return [][]int{s.Right, s.Up} }
 	return map[string]func() [][]int{
 		"SurfaceOk":       func() [][]int { impl.SurfaceOk(a); return nil },
@@ -848,37 +858,19 @@ func surfaceCalls(a impl.Surface, b impl.Surface, names []int) map[string]func()
 		"SameSurface":     func() [][]int { impl.SameSurface(a, b); return nil },
 		"AreIsomorphic":   func() [][]int { impl.AreIsomorphic(a, b); return nil },
 		"CountSymmetries": func() [][]int { impl.CountSymmetries(a); return nil },
-		"TorusOf":         func() [][]int { return both(impl.TorusOf(len(a.Right), 1)) },
-		"EllOf":           func() [][]int { return both(impl.EllOf(len(a.Right), 1)) },
+		"TorusOf":         func() [][]int { return both(impl.TorusOf(len(lists[0]), 1)) },
+		"EllOf":           func() [][]int { return both(impl.EllOf(len(lists[0]), 1)) },
 	}
 }
 
-type surfaceArguments struct {
-	a, b  impl.Surface
-	names []int
-}
-
-func (g surfaceArguments) lists() [][]int {
-	return [][]int{g.a.Right, g.a.Up, g.b.Right, g.b.Up, g.names}
-}
-
-func (g surfaceArguments) withRoom() surfaceArguments {
-	return surfaceArguments{
-		surfaceWith(withRoom(g.a.Right), withRoom(g.a.Up)),
-		surfaceWith(withRoom(g.b.Right), withRoom(g.b.Up)),
-		withRoom(g.names),
-	}
-}
-
-func (g surfaceArguments) calls() map[string]func() [][]int {
-	return surfaceCalls(g.a, g.b, g.names)
-}
-
-func surfaceMemoryCases() []surfaceArguments {
+func TestSurfacesKeepTheRulesOfMemory(t *testing.T) {
 	ell := surfaceWith([]int{1, 0, 2}, []int{2, 1, 0})
 	one := surfaceWith([]int{0}, []int{0})
 	torus := surfaceWith(circling(24, 8), circling(24, 9))
-	return []surfaceArguments{
+	for _, c := range []struct {
+		a, b  impl.Surface
+		names []int
+	}{
 		{impl.Surface{}, impl.Surface{}, nil},
 		{one, one, []int{0}},
 		{ell, surfaceWith([]int{2, 1, 0}, []int{0, 2, 1}), []int{2, 0, 1}},
@@ -890,66 +882,8 @@ func surfaceMemoryCases() []surfaceArguments {
 		{ell, surfaceWith([]int{0, 0}, []int{1, 0}), []int{0, 0, 1}},
 		{surfaceWith([]int{0, 1}, []int{0, 1}), ell, []int{0, 1}},
 		{surfaceWith(circling(25, 1), counting(25)), ell, counting(25)},
-	}
-}
-
-// spare is how many elements withRoom puts behind a list.
-const spare = 3
-
-func TestSurfaceArgumentsStay(t *testing.T) {
-	for _, c := range surfaceMemoryCases() {
-		arguments := c.withRoom()
-		var whole [][]int
-		for _, list := range arguments.lists() {
-			whole = append(whole, list[:len(list)+spare])
-		}
-		before := cloneAll(whole)
-		for name, call := range arguments.calls() {
-			for _, list := range call() {
-				spoil(list, -1)
-			}
-			if !slices.EqualFunc(whole, before, slices.Equal) {
-				t.Fatalf("%s or its changed result changed the arguments %v", name, c)
-			}
-		}
-	}
-}
-
-func TestSurfaceResultsAreIndependent(t *testing.T) {
-	for _, c := range surfaceMemoryCases() {
-		for name, call := range c.calls() {
-			first, second := call(), call()
-			want := cloneAll(second)
-			for i := range first {
-				rest := cloneAll(first[i+1:])
-				spoil(first[i], -1)
-				if !slices.EqualFunc(first[i+1:], rest, slices.Equal) {
-					t.Errorf("%s of %v: two lists of a result share memory", name, c)
-				}
-			}
-			if !slices.EqualFunc(second, want, slices.Equal) {
-				t.Errorf("%s of %v: two results share memory", name, c)
-			}
-			if third := call(); !slices.EqualFunc(third, want, slices.Equal) {
-				t.Errorf("%s of %v: a changed result comes back: %v", name, c, third)
-			}
-		}
-	}
-}
-
-func TestSurfaceResultsOutliveTheirArguments(t *testing.T) {
-	for _, c := range surfaceMemoryCases() {
-		for name := range c.calls() {
-			arguments := c.withRoom()
-			result := arguments.calls()[name]()
-			want := cloneAll(result)
-			for _, list := range arguments.lists() {
-				spoil(list, -1)
-			}
-			if !slices.EqualFunc(result, want, slices.Equal) {
-				t.Errorf("%s of %v: the result changed with its arguments", name, c)
-			}
-		}
+	} {
+		checkMemory(t, [][]int{c.a.Right, c.a.Up, c.b.Right, c.b.Up, c.names}, surfaceCalls)
 	}
 }
 
