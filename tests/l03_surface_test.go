@@ -135,6 +135,9 @@ func invalidSurfaces() []impl.Surface {
 		n := len(bad)
 		list = append(list, surfaceWith(bad, bad), surfaceWith(bad, circling(n, 1)), surfaceWith(circling(n, 1), bad))
 	}
+	for n := 25; n <= 30; n++ {
+		list = append(list, surfaceWith(circling(n, 1), counting(n)), surfaceWith(counting(n), circling(n, 1)), zigzag(n))
+	}
 	return list
 }
 

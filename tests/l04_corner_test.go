@@ -456,11 +456,6 @@ func TestInvalidSurfacesHaveNoCorners(t *testing.T) {
 	for _, s := range invalidSurfaces() {
 		checkNoCorners(t, s)
 	}
-	for n := 25; n <= 30; n++ {
-		checkNoCorners(t, surfaceWith(circling(n, 1), counting(n)))
-		checkNoCorners(t, surfaceWith(counting(n), circling(n, 1)))
-		checkNoCorners(t, zigzag(n))
-	}
 }
 
 func TestCornersOfAllShortLists(t *testing.T) {
