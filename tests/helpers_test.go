@@ -1,6 +1,7 @@
 package tests
 
 import (
+	"runtime"
 	"slices"
 	"testing"
 )
@@ -170,4 +171,19 @@ func checkResultOutlivesArguments(t *testing.T, name string, lists [][]int, call
 	if !equalLists(result, want) {
 		t.Errorf("%s of %v: the result changed with its arguments", name, lists)
 	}
+}
+
+// checkNothingGoesOn counts what is still running after some calls. It waits,
+// because what has ended in time may still be there for a moment.
+func checkNothingGoesOn(t *testing.T, calls func()) {
+	t.Helper()
+	before := runtime.NumGoroutine()
+	calls()
+	for range 1000000 {
+		if runtime.NumGoroutine() <= before {
+			return
+		}
+		runtime.Gosched()
+	}
+	t.Errorf("%d goroutines run, and %d did before", runtime.NumGoroutine(), before)
 }

@@ -2,7 +2,6 @@ package tests
 
 import (
 	"maps"
-	"runtime"
 	"slices"
 	"strings"
 	"sync"
@@ -871,20 +870,13 @@ func callAll(s impl.Surface) {
 	impl.ShearPeriod(s)
 }
 
-// TestNothingGoesOnAfterACall counts what is still running.
 func TestNothingGoesOnAfterACall(t *testing.T) {
-	before := runtime.NumGoroutine()
-	for _, s := range append(invalidSurfaces(), orbitSurfaces()[:50]...) {
-		callAll(s)
-	}
-	for _, c := range largeOrbits() {
-		callAll(c.s)
-	}
-	for range 1000000 {
-		if runtime.NumGoroutine() <= before {
-			return
+	checkNothingGoesOn(t, func() {
+		for _, s := range append(invalidSurfaces(), orbitSurfaces()[:50]...) {
+			callAll(s)
 		}
-		runtime.Gosched()
-	}
-	t.Errorf("%d goroutines run, and %d did before", runtime.NumGoroutine(), before)
+		for _, c := range largeOrbits() {
+			callAll(c.s)
+		}
+	})
 }
